@@ -69,7 +69,7 @@ func labels() []string {
 	return []string{"", "x", "seal", "a label, of some words", "\x00", "\xff\xfe\x80", "é", strings.Repeat("l", 55), strings.Repeat("l", 63), strings.Repeat("l", 64), strings.Repeat("l", 300)}
 }
 
-// known are tags that are told by others than this project (RFC 4231; of no key and no bytes: the library's).
+// known are tags that are told by others than this project (the first six: RFC 4231).
 func known() []struct{ key, data, want string } {
 	r := strings.Repeat
 	return []struct{ key, data, want string }{
